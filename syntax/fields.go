@@ -1,0 +1,166 @@
+package syntax
+
+import (
+	"ogham/api"
+)
+
+// items reads the items of an enumerated type.
+func (p *parser) items(n *api.Node) bool {
+	if !p.item(n) {
+		return false
+	}
+	n.Root = 1
+	for p.take(",") {
+		if !n.More && p.take("...") {
+			n.More = true
+			continue
+		}
+		if !p.item(n) {
+			return false
+		}
+		if !n.More {
+			n.Root++
+		}
+	}
+	return true
+}
+
+func (p *parser) item(n *api.Node) bool {
+	name, ok := p.token(api.TokName)
+	if !ok {
+		return false
+	}
+	x := api.Item{Name: name}
+	if p.take("(") {
+		x.Number, x.Has = p.number()
+		if !x.Has || !p.want(")") {
+			return false
+		}
+	}
+	n.Items = append(n.Items, x)
+	return true
+}
+
+// braced reads the fields of a sequence, a set or a choice, with their braces.
+func (p *parser) braced(n *api.Node, depth int) bool {
+	if !p.want("{") {
+		return false
+	}
+	if p.take("}") {
+		return true
+	}
+	more := p.is("...")
+	for !more {
+		if !p.field(n, 0, depth) {
+			return false
+		}
+		if !p.take(",") {
+			break
+		}
+		more = p.is("...")
+	}
+	n.Root = len(n.Fields)
+	if more && !p.additions(n, depth) {
+		return false
+	}
+	return p.want("}")
+}
+
+// additions reads "..." and what stands behind it.
+func (p *parser) additions(n *api.Node, depth int) bool {
+	n.More = true
+	p.skip()
+	groups := 0
+	for p.take(",") {
+		if !p.take("[[") {
+			if !p.field(n, 0, depth) {
+				return false
+			}
+			continue
+		}
+		groups++
+		if !p.group(n, groups, depth) {
+			return false
+		}
+	}
+	return true
+}
+
+// group reads the fields of a version bracket, up to its end.
+func (p *parser) group(n *api.Node, group, depth int) bool {
+	for {
+		if !p.field(n, group, depth) {
+			return false
+		}
+		if !p.take(",") {
+			return p.want("]]")
+		}
+	}
+}
+
+func (p *parser) field(n *api.Node, group, depth int) bool {
+	name, ok := p.token(api.TokName)
+	if !ok {
+		return false
+	}
+	f := api.Field{Name: name, Group: group}
+	f.Type, ok = p.node(depth + 1)
+	if !ok {
+		return false
+	}
+	if n.Kind != api.Choice {
+		switch {
+		case p.take("OPTIONAL"):
+			f.Optional = true
+		case p.take("DEFAULT"):
+			f.Default, f.Has = p.value()
+			if !f.Has {
+				return false
+			}
+		}
+	}
+	n.Fields = append(n.Fields, f)
+	return true
+}
+
+// value reads the value of a default.
+func (p *parser) value() (api.Value, bool) {
+	t := p.now()
+	switch {
+	case t.Kind == api.TokNumber:
+		v, ok := p.number()
+		return api.Value{Kind: api.Integer, N: v}, ok
+	case t.Kind == api.TokName:
+		p.skip()
+		return api.Value{Kind: api.Enumerated, B: []byte(t.Text)}, true
+	case t.Kind == api.TokHex:
+		p.skip()
+		return api.Value{Kind: api.Octets, B: unhex(t.Text)}, true
+	case t.Kind == api.TokString:
+		p.skip()
+		return api.Value{Kind: api.Text, B: []byte(t.Text)}, true
+	case p.take("TRUE"):
+		return api.Value{Kind: api.Boolean, N: 1}, true
+	case p.take("FALSE"):
+		return api.Value{Kind: api.Boolean}, true
+	case p.take("NULL"):
+		return api.Value{Kind: api.Null}, true
+	}
+	return api.Value{}, p.stop(api.ErrSyntax)
+}
+
+// unhex returns the bytes that hexadecimal digits denote.
+func unhex(digits string) []byte {
+	b := make([]byte, len(digits)/2)
+	for i := range b {
+		b[i] = nibble(digits[2*i])<<4 | nibble(digits[2*i+1])
+	}
+	return b
+}
+
+func nibble(c byte) byte {
+	if c >= 'A' {
+		return c - 'A' + 10
+	}
+	return c - '0'
+}

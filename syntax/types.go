@@ -1,0 +1,150 @@
+package syntax
+
+import (
+	"ogham/api"
+)
+
+// node reads a type that is nested in depth others, and returns the index of its node.
+func (p *parser) node(depth int) (int, bool) {
+	if !p.begins() {
+		return 0, p.stop(api.ErrSyntax)
+	}
+	if depth > api.MaxDepth || len(p.m.Nodes) == api.MaxNodes {
+		return 0, p.stop(api.ErrLimit)
+	}
+	// The place is taken at once: the nodes within this one come after it.
+	i := len(p.m.Nodes)
+	p.m.Nodes = append(p.m.Nodes, api.Node{})
+	var n api.Node
+	if !p.mark(&n.Mark) || !p.base(&n, depth) {
+		return 0, false
+	}
+	p.m.Nodes[i] = n
+	return i, true
+}
+
+// begins reports whether a type can begin with the next token.
+func (p *parser) begins() bool {
+	t := p.now()
+	switch t.Kind {
+	case api.TokType:
+		return true
+	case api.TokSign:
+		return t.Text == "["
+	case api.TokWord:
+		switch t.Text {
+		case "BOOLEAN", "NULL", "UTF8String", "INTEGER", "OCTET", "ENUMERATED", "SEQUENCE", "SET", "CHOICE":
+			return true
+		}
+	}
+	return false
+}
+
+func (p *parser) mark(m *api.Mark) bool {
+	if !p.take("[") {
+		return true
+	}
+	at := p.now().At
+	v, ok := p.number()
+	if !ok {
+		return false
+	}
+	if v < 0 || v > api.MaxTag {
+		p.reason, p.place = api.ErrTag, at
+		return false
+	}
+	m.Has, m.Number = true, int(v)
+	if !p.want("]") {
+		return false
+	}
+	switch {
+	case p.take("EXPLICIT"):
+		m.Mode = 1
+	case p.take("IMPLICIT"):
+		m.Mode = 2
+	}
+	return true
+}
+
+func (p *parser) base(n *api.Node, depth int) bool {
+	switch {
+	case p.now().Kind == api.TokType:
+		n.Kind, n.Name = api.Ref, p.now().Text
+		p.skip()
+		return true
+	case p.take("BOOLEAN"):
+		n.Kind = api.Boolean
+		return true
+	case p.take("NULL"):
+		n.Kind = api.Null
+		return true
+	case p.take("INTEGER"):
+		n.Kind = api.Integer
+		return p.valueRange(&n.Con)
+	case p.take("UTF8String"):
+		n.Kind = api.Text
+		return p.size(&n.Con)
+	case p.take("OCTET"):
+		n.Kind = api.Octets
+		return p.want("STRING") && p.size(&n.Con)
+	case p.take("ENUMERATED"):
+		n.Kind = api.Enumerated
+		return p.want("{") && p.items(n) && p.want("}")
+	case p.take("SEQUENCE"):
+		return p.sequence(n, depth)
+	case p.take("SET"):
+		n.Kind = api.Set
+		return p.braced(n, depth)
+	case p.take("CHOICE"):
+		n.Kind = api.Choice
+		return p.braced(n, depth)
+	}
+	return p.stop(api.ErrSyntax)
+}
+
+// sequence reads what stands behind the word SEQUENCE.
+func (p *parser) sequence(n *api.Node, depth int) bool {
+	if p.is("{") {
+		n.Kind = api.Sequence
+		return p.braced(n, depth)
+	}
+	n.Kind = api.ListOf
+	if !p.size(&n.Con) || !p.want("OF") {
+		return false
+	}
+	of, ok := p.node(depth + 1)
+	n.Of = of
+	return ok
+}
+
+func (p *parser) valueRange(c *api.Con) bool {
+	return !p.take("(") || p.bounds(c) && p.want(")")
+}
+
+func (p *parser) size(c *api.Con) bool {
+	return !p.take("(") || p.want("SIZE") && p.want("(") && p.bounds(c) && p.want(")") && p.want(")")
+}
+
+// bounds reads the bounds of a constraint, and the sign that they may be gone beyond.
+func (p *parser) bounds(c *api.Con) bool {
+	c.Has = true
+	if !p.take("MIN") && !p.bound(&c.Low, &c.HasLow) {
+		return false
+	}
+	if !p.take("..") {
+		c.High, c.HasHigh = c.Low, c.HasLow
+	} else if !p.take("MAX") && !p.bound(&c.High, &c.HasHigh) {
+		return false
+	}
+	if p.take(",") {
+		c.More = true
+		return p.want("...")
+	}
+	return true
+}
+
+func (p *parser) bound(v *int64, has *bool) bool {
+	n, ok := p.number()
+	*v, *has = n, ok
+	return ok
+}

@@ -10,8 +10,8 @@ func (p *parser) items(n *api.Node) bool {
 		return false
 	}
 	n.Root = 1
-	for p.take(",") {
-		if !n.More && p.take("...") {
+	for p.Take(",") {
+		if !n.More && p.Take("...") {
 			n.More = true
 			continue
 		}
@@ -31,7 +31,7 @@ func (p *parser) item(n *api.Node) bool {
 		return false
 	}
 	x := api.Item{Name: name}
-	if p.take("(") {
+	if p.Take("(") {
 		x.Number, x.Has = p.number()
 		if !x.Has || !p.want(")") {
 			return false
@@ -46,18 +46,18 @@ func (p *parser) braced(n *api.Node, depth int) bool {
 	if !p.want("{") {
 		return false
 	}
-	if p.take("}") {
+	if p.Take("}") {
 		return true
 	}
-	more := p.is("...")
+	more := p.Is("...")
 	for !more {
 		if !p.field(n, 0, depth) {
 			return false
 		}
-		if !p.take(",") {
+		if !p.Take(",") {
 			break
 		}
-		more = p.is("...")
+		more = p.Is("...")
 	}
 	n.Root = len(n.Fields)
 	if more && !p.additions(n, depth) {
@@ -69,10 +69,10 @@ func (p *parser) braced(n *api.Node, depth int) bool {
 // additions reads "..." and what stands behind it.
 func (p *parser) additions(n *api.Node, depth int) bool {
 	n.More = true
-	p.skip()
+	p.Skip()
 	groups := 0
-	for p.take(",") {
-		if !p.take("[[") {
+	for p.Take(",") {
+		if !p.Take("[[") {
 			if !p.field(n, 0, depth) {
 				return false
 			}
@@ -92,7 +92,7 @@ func (p *parser) group(n *api.Node, group, depth int) bool {
 		if !p.field(n, group, depth) {
 			return false
 		}
-		if !p.take(",") {
+		if !p.Take(",") {
 			return p.want("]]")
 		}
 	}
@@ -110,9 +110,9 @@ func (p *parser) field(n *api.Node, group, depth int) bool {
 	}
 	if n.Kind != api.Choice {
 		switch {
-		case p.take("OPTIONAL"):
+		case p.Take("OPTIONAL"):
 			f.Optional = true
-		case p.take("DEFAULT"):
+		case p.Take("DEFAULT"):
 			f.Default, f.Has = p.value()
 			if !f.Has {
 				return false
@@ -125,25 +125,25 @@ func (p *parser) field(n *api.Node, group, depth int) bool {
 
 // value reads the value of a default.
 func (p *parser) value() (api.Value, bool) {
-	t := p.now()
+	t := p.Now()
 	switch {
 	case t.Kind == api.TokNumber:
 		v, ok := p.number()
 		return api.Value{Kind: api.Integer, N: v}, ok
 	case t.Kind == api.TokName:
-		p.skip()
+		p.Skip()
 		return api.Value{Kind: api.Enumerated, B: []byte(t.Text)}, true
 	case t.Kind == api.TokHex:
-		p.skip()
+		p.Skip()
 		return api.Value{Kind: api.Octets, B: unhex(t.Text)}, true
 	case t.Kind == api.TokString:
-		p.skip()
+		p.Skip()
 		return api.Value{Kind: api.Text, B: []byte(t.Text)}, true
-	case p.take("TRUE"):
+	case p.Take("TRUE"):
 		return api.Value{Kind: api.Boolean, N: 1}, true
-	case p.take("FALSE"):
+	case p.Take("FALSE"):
 		return api.Value{Kind: api.Boolean}, true
-	case p.take("NULL"):
+	case p.Take("NULL"):
 		return api.Value{Kind: api.Null}, true
 	}
 	return api.Value{}, p.stop(api.ErrSyntax)

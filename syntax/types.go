@@ -25,7 +25,7 @@ func (p *parser) node(depth int) (int, bool) {
 
 // begins reports whether a type can begin with the next token.
 func (p *parser) begins() bool {
-	t := p.now()
+	t := p.Now()
 	switch t.Kind {
 	case api.TokType:
 		return true
@@ -41,10 +41,10 @@ func (p *parser) begins() bool {
 }
 
 func (p *parser) mark(m *api.Mark) bool {
-	if !p.take("[") {
+	if !p.Take("[") {
 		return true
 	}
-	at := p.now().At
+	at := p.Now().At
 	v, ok := p.number()
 	if !ok {
 		return false
@@ -58,9 +58,9 @@ func (p *parser) mark(m *api.Mark) bool {
 		return false
 	}
 	switch {
-	case p.take("EXPLICIT"):
+	case p.Take("EXPLICIT"):
 		m.Mode = 1
-	case p.take("IMPLICIT"):
+	case p.Take("IMPLICIT"):
 		m.Mode = 2
 	}
 	return true
@@ -68,34 +68,34 @@ func (p *parser) mark(m *api.Mark) bool {
 
 func (p *parser) base(n *api.Node, depth int) bool {
 	switch {
-	case p.now().Kind == api.TokType:
-		n.Kind, n.Name = api.Ref, p.now().Text
-		p.skip()
+	case p.Now().Kind == api.TokType:
+		n.Kind, n.Name = api.Ref, p.Now().Text
+		p.Skip()
 		return true
-	case p.take("BOOLEAN"):
+	case p.Take("BOOLEAN"):
 		n.Kind = api.Boolean
 		return true
-	case p.take("NULL"):
+	case p.Take("NULL"):
 		n.Kind = api.Null
 		return true
-	case p.take("INTEGER"):
+	case p.Take("INTEGER"):
 		n.Kind = api.Integer
 		return p.valueRange(&n.Con)
-	case p.take("UTF8String"):
+	case p.Take("UTF8String"):
 		n.Kind = api.Text
 		return p.size(&n.Con)
-	case p.take("OCTET"):
+	case p.Take("OCTET"):
 		n.Kind = api.Octets
 		return p.want("STRING") && p.size(&n.Con)
-	case p.take("ENUMERATED"):
+	case p.Take("ENUMERATED"):
 		n.Kind = api.Enumerated
 		return p.want("{") && p.items(n) && p.want("}")
-	case p.take("SEQUENCE"):
+	case p.Take("SEQUENCE"):
 		return p.sequence(n, depth)
-	case p.take("SET"):
+	case p.Take("SET"):
 		n.Kind = api.Set
 		return p.braced(n, depth)
-	case p.take("CHOICE"):
+	case p.Take("CHOICE"):
 		n.Kind = api.Choice
 		return p.braced(n, depth)
 	}
@@ -104,7 +104,7 @@ func (p *parser) base(n *api.Node, depth int) bool {
 
 // sequence reads what stands behind the word SEQUENCE.
 func (p *parser) sequence(n *api.Node, depth int) bool {
-	if p.is("{") {
+	if p.Is("{") {
 		n.Kind = api.Sequence
 		return p.braced(n, depth)
 	}
@@ -118,25 +118,25 @@ func (p *parser) sequence(n *api.Node, depth int) bool {
 }
 
 func (p *parser) valueRange(c *api.Con) bool {
-	return !p.take("(") || p.bounds(c) && p.want(")")
+	return !p.Take("(") || p.bounds(c) && p.want(")")
 }
 
 func (p *parser) size(c *api.Con) bool {
-	return !p.take("(") || p.want("SIZE") && p.want("(") && p.bounds(c) && p.want(")") && p.want(")")
+	return !p.Take("(") || p.want("SIZE") && p.want("(") && p.bounds(c) && p.want(")") && p.want(")")
 }
 
 // bounds reads the bounds of a constraint, and the sign that they may be gone beyond.
 func (p *parser) bounds(c *api.Con) bool {
 	c.Has = true
-	if !p.take("MIN") && !p.bound(&c.Low, &c.HasLow) {
+	if !p.Take("MIN") && !p.bound(&c.Low, &c.HasLow) {
 		return false
 	}
-	if !p.take("..") {
+	if !p.Take("..") {
 		c.High, c.HasHigh = c.Low, c.HasLow
-	} else if !p.take("MAX") && !p.bound(&c.High, &c.HasHigh) {
+	} else if !p.Take("MAX") && !p.bound(&c.High, &c.HasHigh) {
 		return false
 	}
-	if p.take(",") {
+	if p.Take(",") {
 		c.More = true
 		return p.want("...")
 	}

@@ -5,6 +5,7 @@ import (
 
 	"ogham/api"
 	"ogham/tags"
+	"ogham/wild"
 )
 
 // apart reports whether the fields of a type can be told apart by the tags with which they begin.
@@ -48,11 +49,5 @@ func (p *parts) distinguishable(fields []api.Field) bool {
 }
 
 func (p *parts) anyWild(fields []api.Field) bool {
-	return slices.ContainsFunc(fields, func(f api.Field) bool { return p.wild(f.Type) })
-}
-
-// wild reports whether a value of a type may begin with any tag.
-func (p *parts) wild(i int) bool {
-	t := p.types[i]
-	return t.Kind == api.Choice && len(t.Tags) == 0 && (t.More || p.anyWild(t.Fields))
+	return slices.ContainsFunc(fields, func(f api.Field) bool { return wild.Is(p.types, f.Type) })
 }

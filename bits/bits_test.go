@@ -159,6 +159,32 @@ func TestReaderFaults(t *testing.T) {
 	}
 }
 
+func TestReaderManyOctets(t *testing.T) {
+	b := make([]byte, 40)
+	for i := range b {
+		b[i] = byte(i + 1)
+	}
+	r := bits.New(b)
+	if got := r.Octets(8); !bytes.Equal(got, b[:8]) {
+		t.Errorf("P1.2: Octets(8): % x", got)
+	}
+	if got := r.Octets(32); !bytes.Equal(got, b[8:]) || r.Left() != 0 || r.Err() != api.OK {
+		t.Errorf("P1.2: Octets(32): % x, error %d", got, r.Err())
+	}
+	for shift := range 9 {
+		r := bits.New(b)
+		r.Bits(shift)
+		if got := r.Octets(41 - (shift+7)/8); len(got) != 0 || r.Err() != api.ErrShort || r.Left() != 320-shift {
+			t.Errorf("P1.2: one octet too many after %d bits: error %d, %d left", shift, r.Err(), r.Left())
+		}
+		r = bits.New(b)
+		r.Bits(shift)
+		if got := r.Octets(40 - (shift+7)/8); len(got) != 40-(shift+7)/8 || r.Err() != api.OK {
+			t.Errorf("P1.2: all octets after %d bits: %d, error %d", shift, len(got), r.Err())
+		}
+	}
+}
+
 func TestReaderEnd(t *testing.T) {
 	for _, x := range []struct {
 		b    string

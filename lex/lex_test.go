@@ -48,6 +48,7 @@ func TestTokens(t *testing.T) {
 		{" \t\r\n", "0:@4"},
 		{"abc aBC Abc a1-b2", "2:abc@0 2:aBC@4 1:Abc@8 2:a1-b2@12 0:@17"},
 		{"ENDx END-x END", "1:ENDx@0 1:END-x@5 5:END@11 0:@14"},
+		{"A Z a z AaZz zZaA", "1:A@0 1:Z@2 2:a@4 2:z@6 1:AaZz@8 2:zZaA@13 0:@17"},
 		{"a--b", "2:a@0 0:@4"},
 		{"a--b--c", "2:a@0 2:c@6 0:@7"},
 		{"a-1--b\nc", "2:a-1@0 2:c@7 0:@8"},

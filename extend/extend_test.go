@@ -1,6 +1,8 @@
 package extend_test
 
 import (
+	"strconv"
+	"strings"
 	"testing"
 
 	"ogham/api"
@@ -150,6 +152,21 @@ func TestExtensionsOfExtensions(t *testing.T) {
 				t.Errorf("consequence: the versions %d and %d: error %d", i, k, e)
 			}
 		}
+	}
+}
+
+func TestManyTypes(t *testing.T) {
+	text := "A ::= SEQUENCE { f0 NULL"
+	for i := 1; i < api.MaxNodes-1; i++ {
+		text += ",f" + strconv.Itoa(i) + " NULL"
+	}
+	x := made(t, "AUTOMATIC", text+" }")
+	if len(x.Types) != api.MaxNodes || !extend.Type(x, 0, x, 0) {
+		t.Errorf("consequence: a type of %d types does not extend itself", len(x.Types))
+	}
+	deep := made(t, "AUTOMATIC", "A ::= "+strings.Repeat("SEQUENCE OF ", api.MaxDepth)+"NULL")
+	if !extend.Type(deep, 0, deep, 0) {
+		t.Error("consequence: a deep type does not extend itself")
 	}
 }
 

@@ -140,6 +140,7 @@ func TestFaults(t *testing.T) {
 		{[]byte{0x80, 0x00}, 999, api.ErrForm, 2},
 		{[]byte{0x80, 0x80, 1}, 999, api.ErrShort, 1},
 		{[]byte{0xc0, 1}, 99999, api.ErrForm, 2},
+		{joined([]byte{0xc0, 0xff}, make([]byte, 255)), 99999, api.ErrForm, 257},
 		{[]byte{0xc5, 1}, 99999, api.ErrForm, 2},
 		{[]byte{0xff}, 99999, api.ErrForm, 1},
 		{[]byte{5, 1, 2, 3, 4}, 9, api.ErrShort, 4},

@@ -145,6 +145,7 @@ func TestNotValid(t *testing.T) {
 		one(api.Node{}), one(api.Node{Kind: api.Unknown}), one(api.Node{Kind: -1}),
 		one(api.Node{Kind: api.ListOf, Of: 1}), one(api.Node{Kind: api.ListOf, Of: -1}),
 		one(api.Node{Kind: api.Set, Fields: []api.Field{{Name: "a", Type: 1}}}),
+		one(api.Node{Kind: api.Sequence, Fields: []api.Field{{Name: "a", Type: 1}}}),
 		one(api.Node{Kind: api.Choice, Fields: []api.Field{{Name: "a", Type: 1}, {Name: "b", Type: -1}}}, null),
 		one(api.Node{Kind: api.ListOf, Of: 0}),
 		one(api.Node{Kind: api.Sequence, Fields: []api.Field{{Name: "a"}, {Name: "b"}}, Root: 2}),

@@ -80,6 +80,7 @@ func TestOrderRefuses(t *testing.T) {
 		{"A ::= SEQUENCE OF A", 0, api.ErrCycle},
 		{"A ::= NULL B ::= A A ::= NULL B ::= NULL", 2, api.ErrTwice},
 		{"A ::= X B ::= NULL B ::= B", 2, api.ErrTwice},
+		{"A ::= X B ::= Y", 0, api.ErrNone},
 		{"A ::= A B ::= SEQUENCE { a NULL, b SEQUENCE OF X }", 1, api.ErrNone},
 		{"A ::= NULL B ::= Y C ::= X", 1, api.ErrNone},
 		{"A ::= B B ::= C C ::= D D ::= B", 1, api.ErrCycle},

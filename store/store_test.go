@@ -79,6 +79,15 @@ func TestRegisterRefuses(t *testing.T) {
 	if len(long) > api.MaxText || len(printed(t, long)) <= api.MaxText {
 		t.Fatalf("a text of %d bytes, printed %d", len(long), len(printed(t, long)))
 	}
+	limit := long
+	for n := len(items); len(printed(t, limit)) > api.MaxText; n-- {
+		limit = module("L", "A ::= ENUMERATED{"+strings.Join(items[:n], ",")+"}")
+	}
+	limit = strings.Replace(limit, "{i0,", "{i"+strings.Repeat("0", api.MaxText-len(printed(t, limit))+1)+",", 1)
+	if len(printed(t, limit)) != api.MaxText {
+		t.Fatalf("a text printed of %d bytes", len(printed(t, limit)))
+	}
+	registered(t, limit)
 	for i, x := range []struct {
 		has  []string
 		text string

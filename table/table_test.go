@@ -383,6 +383,21 @@ func TestBegins(t *testing.T) {
 	}
 }
 
+func TestBeginsOfMany(t *testing.T) {
+	var l []string
+	for i := range api.MaxNodes - 1 {
+		l = append(l, "f"+strconv.Itoa(i)+" ["+strconv.Itoa(i)+"] NULL")
+	}
+	x := made(t, "EXPLICIT", "A ::= CHOICE {"+strings.Join(l, ",")+"}")
+	if got := table.Begins(x, 0); len(got) != api.MaxNodes-1 || got[api.MaxNodes-2] != c(api.MaxNodes-2) {
+		t.Errorf("P10.2: Begins of %d alternatives: %d", api.MaxNodes-1, len(got))
+	}
+	deep := strings.Repeat("CHOICE { a ", api.MaxDepth) + "NULL" + strings.Repeat(" }", api.MaxDepth)
+	if got := table.Begins(made(t, "EXPLICIT", "A ::= "+deep), 0); !slices.Equal(got, []api.Tag{u(5)}) {
+		t.Errorf("P10.2: Begins of a deep Choice: %v", got)
+	}
+}
+
 func TestStrangeArguments(t *testing.T) {
 	for _, m := range []api.Module{
 		{Names: []string{"A", "B"}},
@@ -400,6 +415,12 @@ func TestStrangeArguments(t *testing.T) {
 }
 
 func TestTableIsApart(t *testing.T) {
+	text := parsed(t, "EXPLICIT", `A ::= SEQUENCE { a UTF8String DEFAULT "x" }`)
+	y, _, _ := table.Make(text)
+	y.Types[0].Fields[0].Default.B[0] = 'y'
+	if text.Nodes[0].Fields[0].Default.B[0] != 'x' {
+		t.Error("R3: the table shares a text with its module")
+	}
 	m := parsed(t, "EXPLICIT", "A ::= SEQUENCE { a OCTET STRING DEFAULT '01'H, b B } B ::= ENUMERATED { x } C ::= B")
 	x, _, _ := table.Make(m)
 	x.Names[0], x.Types[0].Fields[0].Name, x.Types[2].Items[0].Name = "Z", "z", "z"

@@ -110,7 +110,11 @@ func TestSimpleTypes(t *testing.T) {
 		{"ENUMERATED { a (9), b (3), c (5), ..., d, e }", "c", "0 01"},
 		{"ENUMERATED { a (9), b (3), c (5), ..., d, e }", "d", "1 0 000000"},
 		{"ENUMERATED { a (9), b (3), c (5), ..., d, e }", "e", "1 0 000001"},
+		{"ENUMERATED { a (9), b (3), c (5), ..., d, e }", "b", "0 00"},
+		{"ENUMERATED { a, b }", "b", "1"},
+		{"ENUMERATED { a, b, c, d }", "d", "11"},
 		{"OCTET STRING", "'00FF'H", "x0200ff"},
+		{"OCTET STRING (SIZE (0..3))", "''H", "00"},
 		{"OCTET STRING (SIZE (2))", "'00FF'H", "x00ff"},
 		{"OCTET STRING (SIZE (0))", "''H", ""},
 		{"OCTET STRING (SIZE (1..4))", "'00FF'H", "01 x00ff"},
@@ -159,6 +163,8 @@ func TestStructures(t *testing.T) {
 		{"CHOICE { a BOOLEAN, b NULL, c INTEGER (0..3) }", "c : 2", "10 10"},
 		{"CHOICE { a [1] BOOLEAN, b [0] NULL, c [2] INTEGER (0..3) }", "a : TRUE", "01 1"},
 		{"CHOICE { a BOOLEAN, b NULL, ..., c INTEGER (0..3), d NULL }", "b : NULL", "0 1"},
+		{"CHOICE { a NULL, b NULL, c NULL, d NULL }", "d : NULL", "11"},
+		{"SEQUENCE { a BOOLEAN, ..., b INTEGER (0..7) OPTIONAL, c NULL DEFAULT NULL, d BOOLEAN DEFAULT TRUE }", "{ a TRUE, b 5, d FALSE }", "1 1 0 000010 101 x01a0 x0100"},
 		{"CHOICE { a BOOLEAN, ..., c INTEGER (0..3), d NULL }", "a : TRUE", "0 1"},
 		{"CHOICE { a BOOLEAN, ..., c INTEGER (0..3), d NULL }", "c : 2", "1 0 000000 x0180"},
 		{"CHOICE { a BOOLEAN, ..., c INTEGER (0..3), d NULL }", "d : NULL", "1 0 000001 x0100"},
@@ -207,6 +213,8 @@ func TestUnknowns(t *testing.T) {
 	encoded(t, made(t, "ENUMERATED { a, ..., b }"), "an item", un(api.Uper, 999, ""), "1 1 x0203e7")
 	encoded(t, made(t, "ENUMERATED { a (7), ..., b (8) }"), "an item with the number of another", un(api.Uper, 7, ""), "1 0 000111")
 	encoded(t, made(t, "CHOICE { a NULL, ..., b NULL }"), "an alternative", un(api.Uper, 1, "xy"), "1 0 000001 x027879")
+	encoded(t, made(t, "CHOICE { a NULL, b NULL, ... }"), "an alternative with the number of another", un(api.Uper, 0, "x"), "1 0 000000 x0178")
+	encoded(t, made(t, "CHOICE { a NULL, b NULL, ... }"), "an alternative with the number of another", un(api.Uper, 1, "x"), "1 0 000001 x0178")
 	seq := made(t, "SEQUENCE { a NULL, ..., b NULL, c BOOLEAN }")
 	v := api.Value{Kind: api.Sequence, L: []api.Value{null, {}, {}}}
 	encoded(t, seq, "raws", with(v, raw(2, "x")), "1 0 000010 001 x0178")

@@ -91,7 +91,10 @@ func TestDecode(t *testing.T) {
 		{"ENUMERATED { a (9), b (3), c (5), ..., d, e }", "0 10", "a"},
 		{"ENUMERATED { a (9), b (3), c (5), ..., d, e }", "1 0 000001", "e"},
 		{"OCTET STRING", "x0200ff", "'00FF'H"},
+		{"INTEGER", "x087fffffffffffffff", "9223372036854775807"},
 		{"OCTET STRING (SIZE (0))", "x00", "''H"},
+		{"OCTET STRING (SIZE (0..3))", "00", "''H"},
+		{"SEQUENCE (SIZE (0..3)) OF NULL", "00", "{}"},
 		{"OCTET STRING (SIZE (1..4, ...))", "0 01 x00ff", "'00FF'H"},
 		{"OCTET STRING (SIZE (1..4, ...))", "1 x00", "''H"},
 		{"OCTET STRING (SIZE (0..65535))", "0000000000000001 xaa", "'AA'H"},
@@ -145,6 +148,7 @@ func TestRefused(t *testing.T) {
 		{"INTEGER (5..MAX)", "x020001"},
 		{"INTEGER (5..MAX)", "x087ffffffffffffffb"}, // beyond 64 bits
 		{"INTEGER (5..MAX)", "x08ffffffffffffffff"},
+		{"INTEGER (5..MAX, ...)", "0 x087ffffffffffffffb"},
 		{"INTEGER (5..MAX, ...)", "1 x0105"},
 		{"INTEGER (MIN..5)", "x0106"},
 		{"INTEGER (MIN..5, ...)", "0 x0106"},

@@ -169,9 +169,12 @@ func TestRawsOfDer(t *testing.T) {
 		[]api.Value{with(v, api.Der, raw(0, "\x81\x00")), with(v, api.Der, raw(0, "\xa2\x00")), with(v, api.Der, raw(0, "\x83\x00")), with(v, api.Der, raw(1, "\x05\x00")), with(v, api.Der, raw(0, "")), with(v, api.Der, raw(0, "\x05")),
 			with(v, api.Der, raw(0, "\x05\x00\x05")), with(v, api.Der, raw(0, "\x05\x01")), with(v, api.Der, raw(0, "\x05\x81\x00")), with(v, 0, raw(0, "\x05\x00")), with(v, 3, raw(0, "\x05\x00")), with(v, -1, raw(0, "\x05\x00")), with(v, api.Der),
 			with(v, api.Der, raw(0, "\x05\x00"), raw(0, "\x05"))})
+	fits(t, "SEQUENCE { a [0] NULL OPTIONAL, b [1] NULL OPTIONAL, ... }",
+		[]api.Value{with(l(api.Sequence, none, none), api.Der, raw(0, "\x05\x00"))},
+		[]api.Value{with(l(api.Sequence, none, none), api.Der, raw(0, "\x80\x00")), with(l(api.Sequence, none, none), api.Der, raw(0, "\x81\x00"))})
 	v = l(api.Set, null, none)
 	fits(t, "SET { a [0] NULL, b [1] NULL OPTIONAL, ... }",
-		[]api.Value{with(v, api.Der, raw(0, "\x05\x00")), with(v, api.Der, raw(0, "\x05\x00"), raw(0, "\x1e\x00"), raw(0, "\x40\x00"), raw(0, "\x82\x00"))},
+		[]api.Value{with(v, api.Der, raw(0, "\x05\x00")), with(v, api.Der, raw(0, "\x00\x00"), raw(0, "\x05\x00")), with(v, api.Der, raw(0, "\x05\x00"), raw(0, "\x1e\x00"), raw(0, "\x40\x00"), raw(0, "\x82\x00"))},
 		[]api.Value{with(v, api.Der, raw(0, "\x80\x00")), with(v, api.Der, raw(0, "\xa1\x00")), with(v, api.Der, raw(0, "\x05\x00"), raw(0, "\x25\x00")), with(v, api.Der, raw(0, "\x82\x00"), raw(0, "\x05\x00"))})
 	fits(t, "SET { a [0] NULL, b [1] NULL OPTIONAL }", []api.Value{v}, []api.Value{with(v, api.Der, raw(0, "\x05\x00")), with(v, api.Uper, raw(5, "x"))})
 }
@@ -291,7 +294,7 @@ func TestStripAndBare(t *testing.T) {
 		v    api.Value
 		want bool
 	}{
-		{v, false}, {want, false}, {inner, false}, {api.Value{Kind: api.Unknown}, false}, {api.Value{}, true}, {null, true},
+		{l(api.ListOf, null), true}, {l(api.ListOf, null, api.Value{Kind: api.Unknown}), false}, {v, false}, {want, false}, {inner, false}, {api.Value{Kind: api.Unknown}, false}, {api.Value{}, true}, {null, true},
 		{with(null, 0, raw(0, "")), false}, {l(api.ListOf, l(api.Sequence, null, api.Value{})), true}, {ch(0, ch(0, with(l(api.Set), api.Der, raw(0, "x")))), false},
 		{with(l(api.Set), api.Der), true},
 	} {

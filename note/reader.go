@@ -2,49 +2,25 @@ package note
 
 import (
 	"slices"
-	"strconv"
 
 	"ogham/api"
 	"ogham/same"
 	"ogham/stream"
 )
 
-// reader reads a value. Its methods report whether they could; if not, the first reason and its position stand in it.
+// reader reads a value. Its methods report whether they could; if not, the stream has the first error.
 type reader struct {
 	stream.Stream
-	t      api.Table
-	reason api.Errno
-	place  int
-}
-
-// stop notes an error at the next token.
-func (r *reader) stop(e api.Errno) bool {
-	r.reason, r.place = e, r.Now().At
-	return false
-}
-
-// want passes over this word or sign.
-func (r *reader) want(text string) bool {
-	return r.Take(text) || r.stop(api.ErrSyntax)
-}
-
-// token passes over a token of this kind and returns its text.
-func (r *reader) token(kind int) (string, bool) {
-	s := r.Now()
-	if s.Kind != kind {
-		return "", r.stop(api.ErrSyntax)
-	}
-	r.Skip()
-	return s.Text, true
+	t api.Table
 }
 
 // value reads a value of type i that is nested in depth others.
 func (r *reader) value(i, depth int) (api.Value, bool) {
 	if depth > api.MaxDepth {
-		return api.Value{}, r.stop(api.ErrLimit)
+		return api.Value{}, r.Stop(api.ErrLimit)
 	}
 	if i < 0 || i >= len(r.t.Types) {
-		return api.Value{}, r.stop(api.ErrSyntax)
+		return api.Value{}, r.Stop(api.ErrSyntax)
 	}
 	x := r.t.Types[i]
 	v := api.Value{Kind: x.Kind}
@@ -53,13 +29,13 @@ func (r *reader) value(i, depth int) (api.Value, bool) {
 	case api.Boolean:
 		ok = r.boolean(&v)
 	case api.Null:
-		ok = r.want("NULL")
+		ok = r.Want("NULL")
 	case api.Integer:
-		ok = r.number(&v)
+		v.N, ok = r.Number()
 	case api.Enumerated:
 		ok = r.item(x, &v)
 	case api.Octets:
-		ok = r.octets(&v)
+		v.B, ok = r.Hex()
 	case api.Text:
 		ok = r.text(&v)
 	case api.ListOf:
@@ -69,7 +45,7 @@ func (r *reader) value(i, depth int) (api.Value, bool) {
 	case api.Sequence, api.Set:
 		ok = r.fields(x, &v, depth)
 	default:
-		ok = r.stop(api.ErrSyntax)
+		ok = r.Stop(api.ErrSyntax)
 	}
 	return v, ok
 }
@@ -79,17 +55,7 @@ func (r *reader) boolean(v *api.Value) bool {
 		v.N = 1
 		return true
 	}
-	return r.want("FALSE")
-}
-
-func (r *reader) number(v *api.Value) bool {
-	s, ok := r.token(api.TokNumber)
-	if !ok {
-		return false
-	}
-	n, err := strconv.ParseInt(s, 10, 64)
-	v.N = n
-	return err == nil
+	return r.Want("FALSE")
 }
 
 func (r *reader) item(x api.Type, v *api.Value) bool {
@@ -98,25 +64,15 @@ func (r *reader) item(x api.Type, v *api.Value) bool {
 		j = slices.IndexFunc(x.Items, func(item api.Item) bool { return item.Name == s.Text })
 	}
 	if j < 0 {
-		return r.stop(api.ErrSyntax)
+		return r.Stop(api.ErrSyntax)
 	}
 	r.Skip()
 	v.N = x.Items[j].Number
 	return true
 }
 
-func (r *reader) octets(v *api.Value) bool {
-	s, ok := r.token(api.TokHex)
-	for k := 0; k+1 < len(s); k += 2 {
-		o, err := strconv.ParseUint(s[k:k+2], 16, 8)
-		v.B = append(v.B, byte(o))
-		ok = ok && err == nil
-	}
-	return ok
-}
-
 func (r *reader) text(v *api.Value) bool {
-	s, ok := r.token(api.TokString)
+	s, ok := r.Token(api.TokString)
 	v.B = []byte(s)
 	return ok
 }
@@ -131,7 +87,7 @@ func (r *reader) list(x api.Type, v *api.Value, depth int) bool {
 
 func (r *reader) choice(x api.Type, v *api.Value, depth int) bool {
 	j, ok := r.field(x, 0)
-	if !ok || !r.want(":") {
+	if !ok || !r.Want(":") {
 		return false
 	}
 	inner, ok := r.value(x.Fields[j].Type, depth+1)
@@ -164,7 +120,7 @@ func (r *reader) field(x api.Type, from int) (int, bool) {
 		j = slices.IndexFunc(x.Fields, func(f api.Field) bool { return f.Name == s.Text })
 	}
 	if j < from {
-		return 0, r.stop(api.ErrSyntax)
+		return 0, r.Stop(api.ErrSyntax)
 	}
 	r.Skip()
 	return j, true
@@ -172,7 +128,7 @@ func (r *reader) field(x api.Type, from int) (int, bool) {
 
 // braced reads parts by one, within braces and separated by commas.
 func (r *reader) braced(one func() bool) bool {
-	if !r.want("{") {
+	if !r.Want("{") {
 		return false
 	}
 	if r.Take("}") {
@@ -183,7 +139,7 @@ func (r *reader) braced(one func() bool) bool {
 			return false
 		}
 		if !r.Take(",") {
-			return r.want("}")
+			return r.Want("}")
 		}
 	}
 }

@@ -26,14 +26,14 @@ func (p *parser) items(n *api.Node) bool {
 }
 
 func (p *parser) item(n *api.Node) bool {
-	name, ok := p.token(api.TokName)
+	name, ok := p.Token(api.TokName)
 	if !ok {
 		return false
 	}
 	x := api.Item{Name: name}
 	if p.Take("(") {
-		x.Number, x.Has = p.number()
-		if !x.Has || !p.want(")") {
+		x.Number, x.Has = p.Number()
+		if !x.Has || !p.Want(")") {
 			return false
 		}
 	}
@@ -43,7 +43,7 @@ func (p *parser) item(n *api.Node) bool {
 
 // braced reads the fields of a sequence, a set or a choice, with their braces.
 func (p *parser) braced(n *api.Node, depth int) bool {
-	if !p.want("{") {
+	if !p.Want("{") {
 		return false
 	}
 	if p.Take("}") {
@@ -63,7 +63,7 @@ func (p *parser) braced(n *api.Node, depth int) bool {
 	if more && !p.additions(n, depth) {
 		return false
 	}
-	return p.want("}")
+	return p.Want("}")
 }
 
 // additions reads "..." and what stands behind it.
@@ -93,13 +93,13 @@ func (p *parser) group(n *api.Node, group, depth int) bool {
 			return false
 		}
 		if !p.Take(",") {
-			return p.want("]]")
+			return p.Want("]]")
 		}
 	}
 }
 
 func (p *parser) field(n *api.Node, group, depth int) bool {
-	name, ok := p.token(api.TokName)
+	name, ok := p.Token(api.TokName)
 	if !ok {
 		return false
 	}
@@ -128,14 +128,14 @@ func (p *parser) value() (api.Value, bool) {
 	t := p.Now()
 	switch {
 	case t.Kind == api.TokNumber:
-		v, ok := p.number()
-		return api.Value{Kind: api.Integer, N: v}, ok
+		n, ok := p.Number()
+		return api.Value{Kind: api.Integer, N: n}, ok
 	case t.Kind == api.TokName:
 		p.Skip()
 		return api.Value{Kind: api.Enumerated, B: []byte(t.Text)}, true
 	case t.Kind == api.TokHex:
-		p.Skip()
-		return api.Value{Kind: api.Octets, B: unhex(t.Text)}, true
+		b, ok := p.Hex()
+		return api.Value{Kind: api.Octets, B: b}, ok
 	case t.Kind == api.TokString:
 		p.Skip()
 		return api.Value{Kind: api.Text, B: []byte(t.Text)}, true
@@ -146,21 +146,5 @@ func (p *parser) value() (api.Value, bool) {
 	case p.Take("NULL"):
 		return api.Value{Kind: api.Null}, true
 	}
-	return api.Value{}, p.stop(api.ErrSyntax)
-}
-
-// unhex returns the bytes that hexadecimal digits denote.
-func unhex(digits string) []byte {
-	b := make([]byte, len(digits)/2)
-	for i := range b {
-		b[i] = nibble(digits[2*i])<<4 | nibble(digits[2*i+1])
-	}
-	return b
-}
-
-func nibble(c byte) byte {
-	if c >= 'A' {
-		return c - 'A' + 10
-	}
-	return c - '0'
+	return api.Value{}, p.Stop(api.ErrSyntax)
 }

@@ -7,10 +7,10 @@ import (
 // node reads a type that is nested in depth others, and returns the index of its node.
 func (p *parser) node(depth int) (int, bool) {
 	if !p.begins() {
-		return 0, p.stop(api.ErrSyntax)
+		return 0, p.Stop(api.ErrSyntax)
 	}
 	if depth > api.MaxDepth || len(p.m.Nodes) == api.MaxNodes {
-		return 0, p.stop(api.ErrLimit)
+		return 0, p.Stop(api.ErrLimit)
 	}
 	// The place is taken at once: the nodes within this one come after it.
 	i := len(p.m.Nodes)
@@ -45,16 +45,15 @@ func (p *parser) mark(m *api.Mark) bool {
 		return true
 	}
 	at := p.Now().At
-	v, ok := p.number()
+	v, ok := p.Number()
 	if !ok {
 		return false
 	}
 	if v < 0 || v > api.MaxTag {
-		p.reason, p.place = api.ErrTag, at
-		return false
+		return p.StopAt(at, api.ErrTag)
 	}
 	m.Has, m.Number = true, int(v)
-	if !p.want("]") {
+	if !p.Want("]") {
 		return false
 	}
 	switch {
@@ -86,10 +85,10 @@ func (p *parser) base(n *api.Node, depth int) bool {
 		return p.size(&n.Con)
 	case p.Take("OCTET"):
 		n.Kind = api.Octets
-		return p.want("STRING") && p.size(&n.Con)
+		return p.Want("STRING") && p.size(&n.Con)
 	case p.Take("ENUMERATED"):
 		n.Kind = api.Enumerated
-		return p.want("{") && p.items(n) && p.want("}")
+		return p.Want("{") && p.items(n) && p.Want("}")
 	case p.Take("SEQUENCE"):
 		return p.sequence(n, depth)
 	case p.Take("SET"):
@@ -99,7 +98,7 @@ func (p *parser) base(n *api.Node, depth int) bool {
 		n.Kind = api.Choice
 		return p.braced(n, depth)
 	}
-	return p.stop(api.ErrSyntax)
+	return p.Stop(api.ErrSyntax)
 }
 
 // sequence reads what stands behind the word SEQUENCE.
@@ -109,7 +108,7 @@ func (p *parser) sequence(n *api.Node, depth int) bool {
 		return p.braced(n, depth)
 	}
 	n.Kind = api.ListOf
-	if !p.size(&n.Con) || !p.want("OF") {
+	if !p.size(&n.Con) || !p.Want("OF") {
 		return false
 	}
 	of, ok := p.node(depth + 1)
@@ -118,11 +117,11 @@ func (p *parser) sequence(n *api.Node, depth int) bool {
 }
 
 func (p *parser) valueRange(c *api.Con) bool {
-	return !p.Take("(") || p.bounds(c) && p.want(")")
+	return !p.Take("(") || p.bounds(c) && p.Want(")")
 }
 
 func (p *parser) size(c *api.Con) bool {
-	return !p.Take("(") || p.want("SIZE") && p.want("(") && p.bounds(c) && p.want(")") && p.want(")")
+	return !p.Take("(") || p.Want("SIZE") && p.Want("(") && p.bounds(c) && p.Want(")") && p.Want(")")
 }
 
 // bounds reads the bounds of a constraint, and the sign that they may be gone beyond.
@@ -138,13 +137,13 @@ func (p *parser) bounds(c *api.Con) bool {
 	}
 	if p.Take(",") {
 		c.More = true
-		return p.want("...")
+		return p.Want("...")
 	}
 	return true
 }
 
 func (p *parser) bound(v *int64, has *bool) bool {
-	n, ok := p.number()
+	n, ok := p.Number()
 	*v, *has = n, ok
 	return ok
 }

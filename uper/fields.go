@@ -60,17 +60,17 @@ func (e *encoder) additions(i int, v api.Value) []func() {
 		n = v.More[len(v.More)-1].N + 1
 	}
 	puts := make([]func(), n)
-	any := len(v.More) > 0
+	some := len(v.More) > 0
 	for s, slot := range slots {
 		if slices.ContainsFunc(slot, func(j int) bool { return v.L[j].Kind != 0 }) {
-			any = true
+			some = true
 			puts[s] = func() { e.slot(x, v, slot) }
 		}
 	}
 	for _, raw := range v.More {
 		puts[raw.N] = func() { length.Put(&e.Writer, raw.B) }
 	}
-	if !any {
+	if !some {
 		return nil
 	}
 	return puts

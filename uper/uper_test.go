@@ -144,6 +144,8 @@ func TestStructures(t *testing.T) {
 	for _, x := range []struct{ typ, v, bits string }{
 		{"SEQUENCE { a INTEGER (0..7), b BOOLEAN OPTIONAL }", "{ a 5 }", "0 101"},
 		{"SEQUENCE { a INTEGER (0..7), b BOOLEAN OPTIONAL }", "{ a 5, b TRUE }", "1 101 1"},
+		{"SEQUENCE { a ENUMERATED { r, s }, b ENUMERATED { r, s, ..., t }, c BOOLEAN }", "{ a r, b r, c TRUE }", "0 00 1"},
+		{"SEQUENCE { a CHOICE { r NULL, s NULL }, b CHOICE { r NULL, s NULL, ..., t NULL }, c BOOLEAN }", "{ a r : NULL, b r : NULL, c TRUE }", "0 00 1"},
 		{"SEQUENCE {}", "{}", ""},
 		{"SEQUENCE { ... }", "{}", "0"},
 		{"SEQUENCE { a BOOLEAN DEFAULT TRUE, b NULL, c INTEGER (0..3) OPTIONAL }", "{ a FALSE, b NULL, c 2 }", "11 0 10"},

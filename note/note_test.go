@@ -205,13 +205,13 @@ func TestParseDepth(t *testing.T) {
 	if got, e := note.Print(deep, 0, v); got != text || e != api.OK {
 		t.Errorf("P13.1: %q, error %d", got, e)
 	}
+	// No table that Make returns is so deep.
 	for kind, part := range map[int]string{api.Choice: "a : ", api.Set: "{ a ", api.Sequence: "{ a "} {
 		x := api.Table{Types: []api.Type{{Kind: kind, Fields: []api.Field{{Name: "a"}}}}}
 		if _, at, e := note.Parse(x, 0, strings.Repeat(part, 20)); e != api.ErrLimit || at != len(part)*(api.MaxDepth+1) {
 			t.Errorf("P13.2: the kind %d: error %d at %d", kind, e, at)
 		}
 	}
-	// No table that Make returns is so deep.
 	endless := api.Table{Types: []api.Type{{Kind: api.ListOf}}}
 	if _, at, e := note.Parse(endless, 0, strings.Repeat("{", 20)); e != api.ErrLimit || at != api.MaxDepth+1 {
 		t.Errorf("P13.2: error %d at %d", e, at)
